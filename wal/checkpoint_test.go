@@ -35,6 +35,7 @@ func checkpoints() []job {
 		{what: "a number above the count", disk: with(db, whole(fr(9, 0), fr(6, 5)))},
 		{what: "grows without its pages", disk: with(db, whole(fr(5, 0), fr(0, 8)))},
 		{what: "grows without a page of which db has a part", disk: with(db[:700], whole(fr(1, 5))), shaky: true},
+		{what: "shrinks and grows without its pages", disk: with(db, whole(fr(0, 2), fr(0, 5))), shaky: true},
 		{what: "a torn head, the old one", disk: with(db, newHead[:20]+oldHead[20:]+frames)},
 		{what: "a torn head, the new one", disk: with(db, newHead[:40]+oldHead[40:]+frames)},
 		{what: "frames behind those that count", disk: with(db, oldHead+frames+strings.Repeat("z", 1000))},

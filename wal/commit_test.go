@@ -12,7 +12,7 @@ import (
 	"bureau/wal"
 )
 
-// job is a disk and what is to be done with it: a commit, or a checkpoint up to a mark. Of one that is shaky a crash may take what was there ahead of it, or may bring up a head that was too short to count: there the steps alone are promised.
+// job is a disk and what is to be done with it: a commit, or a checkpoint up to a mark. Of one that is shaky a crash may take what was there ahead of it, or may bring up a head that was too short to count, or its log grows without its pages, as none does that commits made: there the steps alone are promised.
 type job struct {
 	what  string
 	disk  *disk.Disk
