@@ -1,6 +1,9 @@
 package expr
 
-import "bureau/api"
+import (
+	"bureau/api"
+	"bureau/cursor"
+)
 
 func node(op api.Op, args ...api.Expr) *api.Expr {
 	return &api.Expr{Op: op, Args: args}
@@ -10,11 +13,11 @@ func node(op api.Op, args ...api.Expr) *api.Expr {
 func (r *reader) chained(below func() *api.Expr, operator func(mark string) api.Op) *api.Expr {
 	e := below()
 	for {
-		op := operator(r.now)
+		op := operator(r.Now)
 		if op == 0 {
 			return e
 		}
-		r.step()
+		r.Step()
 		e = node(op, *e, *below())
 	}
 }
@@ -87,10 +90,10 @@ func chainOp(mark string) api.Op {
 }
 
 func (r *reader) not() *api.Expr {
-	if !r.takes("NOT") {
+	if !r.Takes("NOT") {
 		return r.same()
 	}
-	if r.now == "EXISTS" {
+	if r.Now == "EXISTS" {
 		e := r.exists()
 		e.Not = true
 		return e
@@ -101,18 +104,18 @@ func (r *reader) not() *api.Expr {
 func (r *reader) same() *api.Expr {
 	e := r.less()
 	for {
-		switch r.now {
+		switch r.Now {
 		case "=", "==":
-			r.step()
+			r.Step()
 			e = node(api.OpEq, *e, *r.less())
 		case "<>", "!=":
-			r.step()
+			r.Step()
 			e = node(api.OpNe, *e, *r.less())
 		case "IS":
-			r.step()
+			r.Step()
 			e = r.is(e)
 		case "NOT":
-			r.step()
+			r.Step()
 			e = r.worded(e)
 			e.Not = true
 		case "LIKE", "GLOB", "BETWEEN", "IN":
@@ -125,7 +128,7 @@ func (r *reader) same() *api.Expr {
 
 func (r *reader) is(left *api.Expr) *api.Expr {
 	op := api.OpIs
-	if r.takes("NOT") {
+	if r.Takes("NOT") {
 		op = api.OpIsNot
 	}
 	return node(op, *left, *r.less())
@@ -133,46 +136,46 @@ func (r *reader) is(left *api.Expr) *api.Expr {
 
 // worded reads an operator ahead of which NOT may stand.
 func (r *reader) worded(left *api.Expr) *api.Expr {
-	switch r.now {
+	switch r.Now {
 	case "LIKE":
-		r.step()
+		r.Step()
 		return node(api.OpLike, *left, *r.less())
 	case "GLOB":
-		r.step()
+		r.Step()
 		return node(api.OpGlob, *left, *r.less())
 	case "BETWEEN":
-		r.step()
+		r.Step()
 		low := r.less()
-		r.want("AND")
+		r.Want("AND")
 		return node(api.OpBetween, *left, *low, *r.less())
 	case "IN":
-		r.step()
+		r.Step()
 		return r.in(left)
 	}
-	r.fail()
+	r.Fail()
 	return nil
 }
 
 func (r *reader) in(left *api.Expr) *api.Expr {
 	e := node(api.OpIn, *left)
-	r.want("(")
+	r.Want("(")
 	switch {
 	case r.atQuery():
 		e.Sub = []api.Select{*r.query()}
-	case r.now != ")":
-		e.Args = append(e.Args, list(r, r.or)...)
+	case r.Now != ")":
+		e.Args = append(e.Args, cursor.List(&r.Cursor, r.or)...)
 	}
-	r.want(")")
+	r.Want(")")
 	return e
 }
 
 func (r *reader) sign() *api.Expr {
-	switch r.now {
+	switch r.Now {
 	case "-":
-		r.step()
+		r.Step()
 		return node(api.OpNeg, *r.sign())
 	case "+":
-		r.step()
+		r.Step()
 		return node(api.OpPlus, *r.sign())
 	}
 	return r.ruled()
@@ -180,9 +183,9 @@ func (r *reader) sign() *api.Expr {
 
 func (r *reader) ruled() *api.Expr {
 	e := r.one()
-	for r.takes("COLLATE") {
+	for r.Takes("COLLATE") {
 		e = node(api.OpCollate, *e)
-		e.Name = r.word(isRule)
+		e.Name = r.Word(isRule)
 	}
 	return e
 }

@@ -4,12 +4,13 @@ import (
 	"strconv"
 
 	"bureau/api"
+	"bureau/cursor"
 	"bureau/value"
 )
 
 // one reads what no operator parts.
 func (r *reader) one() *api.Expr {
-	switch r.now {
+	switch r.Now {
 	case "(":
 		return r.brackets()
 	case "EXISTS":
@@ -19,12 +20,12 @@ func (r *reader) one() *api.Expr {
 	case "CAST":
 		return r.cast()
 	case "NULL":
-		r.step()
+		r.Step()
 		return node(api.OpLit)
 	case "REPLACE":
-		return r.call(r.text())
+		return r.call(r.Text())
 	}
-	switch r.token().Kind {
+	switch r.Token().Kind {
 	case api.TokInt, api.TokText, api.TokBlob:
 		return r.literal()
 	case api.TokParam:
@@ -34,9 +35,9 @@ func (r *reader) one() *api.Expr {
 }
 
 func (r *reader) brackets() *api.Expr {
-	r.want("(")
+	r.Want("(")
 	e := r.inBrackets()
-	r.want(")")
+	r.Want(")")
 	return e
 }
 
@@ -50,45 +51,44 @@ func (r *reader) inBrackets() *api.Expr {
 }
 
 func (r *reader) exists() *api.Expr {
-	r.want("EXISTS")
+	r.Want("EXISTS")
 	e := node(api.OpExists)
 	e.Sub = []api.Select{*r.ownQuery()}
 	return e
 }
 
 func (r *reader) cases() *api.Expr {
-	r.want("CASE")
+	r.Want("CASE")
 	e := node(api.OpCase)
-	if r.now != "WHEN" {
+	if r.Now != "WHEN" {
 		e.N = caseBase
 		e.Args = append(e.Args, *r.or())
 	}
-	r.want("WHEN")
-	for more := true; more; more = r.takes("WHEN") {
+	r.Want("WHEN")
+	for more := true; more; more = r.Takes("WHEN") {
 		e.Args = append(e.Args, *r.or())
-		r.want("THEN")
+		r.Want("THEN")
 		e.Args = append(e.Args, *r.or())
 	}
-	if r.takes("ELSE") {
+	if r.Takes("ELSE") {
 		e.N |= caseElse
 		e.Args = append(e.Args, *r.or())
 	}
-	r.want("END")
+	r.Want("END")
 	return e
 }
 
 func (r *reader) cast() *api.Expr {
-	r.want("CAST")
-	r.want("(")
+	r.Want("CAST", "(")
 	e := node(api.OpCast, *r.or())
-	r.want("AS")
-	e.Name = r.word(isType)
-	r.want(")")
+	r.Want("AS")
+	e.Name = r.Word(isType)
+	r.Want(")")
 	return e
 }
 
 func (r *reader) literal() *api.Expr {
-	t := r.token()
+	t := r.Token()
 	e := node(api.OpLit)
 	switch t.Kind {
 	case api.TokInt:
@@ -99,9 +99,9 @@ func (r *reader) literal() *api.Expr {
 		e.V = api.Value{Kind: api.KindBlob, Text: t.Text}
 	}
 	if !value.May(e.V) {
-		r.fail()
+		r.Fail()
 	}
-	r.step()
+	r.Step()
 	return e
 }
 
@@ -109,7 +109,7 @@ func (r *reader) literal() *api.Expr {
 func (r *reader) number(digits string) int64 {
 	n, e := strconv.ParseInt(digits, 10, 64)
 	if e != nil || digits[0] == '-' || digits[0] == '+' {
-		r.fail()
+		r.Fail()
 	}
 	return n
 }
@@ -117,27 +117,27 @@ func (r *reader) number(digits string) int64 {
 func (r *reader) param() *api.Expr {
 	e := node(api.OpParam)
 	e.N = r.params + 1
-	if digits := r.token().Text; digits != "" {
+	if digits := r.Token().Text; digits != "" {
 		e.N = int(r.number(digits))
 	}
 	if !isParam(e.N) {
-		r.fail()
+		r.Fail()
 	}
 	r.params = max(r.params, e.N)
-	r.step()
+	r.Step()
 	return e
 }
 
 // named reads a column or a call.
 func (r *reader) named() *api.Expr {
-	name := r.name()
-	if r.now == "(" {
+	name := r.Name()
+	if r.Now == "(" {
 		return r.call(name)
 	}
 	e := node(api.OpCol)
 	e.Name = name
-	if r.takes(".") {
-		e.Table, e.Name = name, r.name()
+	if r.Takes(".") {
+		e.Table, e.Name = name, r.Name()
 	}
 	return e
 }
@@ -145,19 +145,19 @@ func (r *reader) named() *api.Expr {
 func (r *reader) call(name string) *api.Expr {
 	e := node(api.OpCall)
 	e.Name = name
-	r.want("(")
-	switch r.now {
+	r.Want("(")
+	switch r.Now {
 	case ")":
 	case "*":
-		r.step()
+		r.Step()
 		e.N = callStar
 	case "DISTINCT":
-		r.step()
+		r.Step()
 		e.N = callDistinct
 		e.Args = []api.Expr{*r.or()}
 	default:
-		e.Args = list(r, r.or)
+		e.Args = cursor.List(&r.Cursor, r.or)
 	}
-	r.want(")")
+	r.Want(")")
 	return e
 }

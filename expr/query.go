@@ -1,13 +1,16 @@
 package expr
 
-import "bureau/api"
+import (
+	"bureau/api"
+	"bureau/cursor"
+)
 
 // whole reads a select with the tables of its WITH.
 func (r *reader) whole() *api.Select {
 	var tables []api.Cte
-	if r.takes("WITH") {
-		r.takes("RECURSIVE")
-		tables = list(r, r.table)
+	if r.Takes("WITH") {
+		r.Takes("RECURSIVE")
+		tables = cursor.List(&r.Cursor, r.table)
 	}
 	s := r.query()
 	s.With = tables
@@ -15,30 +18,21 @@ func (r *reader) whole() *api.Select {
 }
 
 func (r *reader) table() *api.Cte {
-	t := &api.Cte{Name: r.name()}
-	if r.takes("(") {
-		t.Cols = list(r, r.column)
-		r.want(")")
-	}
-	r.want("AS")
+	t := &api.Cte{Name: r.Name(), Cols: r.Names()}
+	r.Want("AS")
 	t.Body = []api.Select{*r.ownQuery()}
 	return t
 }
 
-func (r *reader) column() *string {
-	name := r.name()
-	return &name
-}
-
 func (r *reader) atQuery() bool {
-	return r.now == "SELECT" || r.now == "VALUES"
+	return r.Now == "SELECT" || r.Now == "VALUES"
 }
 
 // ownQuery reads a query in brackets.
 func (r *reader) ownQuery() *api.Select {
-	r.want("(")
+	r.Want("(")
 	s := r.query()
-	r.want(")")
+	r.Want(")")
 	return s
 }
 
@@ -49,9 +43,9 @@ func (r *reader) query() *api.Select {
 		p.Comp = comp
 		s.Parts = append(s.Parts, *p)
 	}
-	if r.takes("ORDER") {
-		r.want("BY")
-		s.Order = list(r, r.term)
+	if r.Takes("ORDER") {
+		r.Want("BY")
+		s.Order = cursor.List(&r.Cursor, r.term)
 	}
 	s.Limit = r.maybe("LIMIT")
 	if s.Limit != nil {
@@ -62,18 +56,18 @@ func (r *reader) query() *api.Select {
 
 // compound takes what stands between two parts, if a further part follows.
 func (r *reader) compound() api.Compound {
-	switch r.now {
+	switch r.Now {
 	case "UNION":
-		r.step()
-		if r.takes("ALL") {
+		r.Step()
+		if r.Takes("ALL") {
 			return api.CompAll
 		}
 		return api.CompUnion
 	case "INTERSECT":
-		r.step()
+		r.Step()
 		return api.CompIntersect
 	case "EXCEPT":
-		r.step()
+		r.Step()
 		return api.CompExcept
 	}
 	return api.CompFirst
@@ -81,33 +75,33 @@ func (r *reader) compound() api.Compound {
 
 func (r *reader) term() *api.Sort {
 	t := &api.Sort{Expr: *r.or()}
-	switch r.now {
+	switch r.Now {
 	case "DESC":
 		t.Desc = true
-		r.step()
+		r.Step()
 	case "ASC":
-		r.step()
+		r.Step()
 	}
 	return t
 }
 
 func (r *reader) part() *api.Part {
-	if r.takes("VALUES") {
+	if r.Takes("VALUES") {
 		return &api.Part{Values: r.rows()}
 	}
-	r.want("SELECT")
-	p := &api.Part{Distinct: r.takes("DISTINCT")}
+	r.Want("SELECT")
+	p := &api.Part{Distinct: r.Takes("DISTINCT")}
 	if !p.Distinct {
-		r.takes("ALL")
+		r.Takes("ALL")
 	}
-	p.Items = list(r, r.item)
-	if r.takes("FROM") {
+	p.Items = cursor.List(&r.Cursor, r.item)
+	if r.Takes("FROM") {
 		p.From = r.sources()
 	}
 	p.Where = r.maybe("WHERE")
-	if r.takes("GROUP") {
-		r.want("BY")
-		p.Group = list(r, r.or)
+	if r.Takes("GROUP") {
+		r.Want("BY")
+		p.Group = cursor.List(&r.Cursor, r.or)
 		p.Having = r.maybe("HAVING")
 	}
 	return p
@@ -115,39 +109,31 @@ func (r *reader) part() *api.Part {
 
 // rows reads the rows of VALUES, all as long as the first one.
 func (r *reader) rows() [][]api.Expr {
-	l := [][]api.Expr{r.firstRow()}
-	for r.takes(",") {
+	l := [][]api.Expr{cursor.InBrackets(&r.Cursor, r.or)}
+	for r.Takes(",") {
 		l = append(l, r.nextRow(len(l[0])))
 	}
 	return l
 }
 
-func (r *reader) firstRow() []api.Expr {
-	r.want("(")
-	row := list(r, r.or)
-	r.want(")")
-	return row
-}
-
 func (r *reader) nextRow(size int) []api.Expr {
-	r.want("(")
+	r.Want("(")
 	row := []api.Expr{*r.or()}
 	for len(row) < size {
-		r.want(",")
+		r.Want(",")
 		row = append(row, *r.or())
 	}
-	r.want(")")
+	r.Want(")")
 	return row
 }
 
 func (r *reader) item() *api.Item {
 	switch {
-	case r.takes("*"):
+	case r.Takes("*"):
 		return &api.Item{Star: true}
-	case r.atName() && r.mark(r.at+1) == "." && r.mark(r.at+2) == "*":
-		table := r.name()
-		r.want(".")
-		r.want("*")
+	case r.AtName() && r.Mark(r.At+1) == "." && r.Mark(r.At+2) == "*":
+		table := r.Name()
+		r.Want(".", "*")
 		return &api.Item{Star: true, Table: table}
 	}
 	i := &api.Item{Expr: []api.Expr{*r.or()}}
@@ -171,18 +157,18 @@ func (r *reader) sources() []api.Source {
 
 // join takes what stands between two sources, if a further source follows.
 func (r *reader) join() (api.Join, bool) {
-	switch r.now {
+	switch r.Now {
 	case ",", "JOIN":
-		r.step()
+		r.Step()
 		return api.JoinInner, true
 	case "INNER", "CROSS":
-		r.step()
-		r.want("JOIN")
+		r.Step()
+		r.Want("JOIN")
 		return api.JoinInner, true
 	case "LEFT":
-		r.step()
-		r.takes("OUTER")
-		r.want("JOIN")
+		r.Step()
+		r.Takes("OUTER")
+		r.Want("JOIN")
 		return api.JoinLeft, true
 	}
 	return api.JoinInner, false
@@ -190,10 +176,10 @@ func (r *reader) join() (api.Join, bool) {
 
 func (r *reader) source() *api.Source {
 	s := &api.Source{}
-	if r.now == "(" {
+	if r.Now == "(" {
 		s.Sub = []api.Select{*r.ownQuery()}
 	} else {
-		s.Name = r.name()
+		s.Name = r.Name()
 	}
 	s.As = r.alias()
 	return s
